@@ -150,6 +150,19 @@ func TestFold(t *testing.T) { // 9.2, 9.4
 	}
 }
 
+func TestWrongListsDoNotPanic(t *testing.T) { // P1
+	for _, f := range []int{-1, 4, 99, math.MaxInt, math.MinInt} {
+		l := []api.Act{set(f, 1), set(f, 2), out(-5), {Kind: 77, F: f, V: f}, set(f, 3), back, set(3, 999), out(1)}
+		act.Fold(l)
+		act.Text(l)
+		act.Code(l)
+		act.Outs(l)
+		if act.Right(l, 8) || !act.Writes(l, f) || len(act.Run(l, api.Packet{1, 2, 3, 4})) != 2 {
+			t.Error(f)
+		}
+	}
+}
+
 func TestFoldReturnsNewMemory(t *testing.T) { // 9.2 with R4
 	l := []api.Act{set(3, 4), out(1)}
 	act.Fold(l)[0].V = 99

@@ -96,6 +96,9 @@ func TestNew(t *testing.T) { // 33.1
 			t.Errorf("%d: %v, %d", i, a, e)
 		}
 	}
+	if agent.Flipped != 1 || agent.Undone != 2 || agent.Failed != 3 {
+		t.Error("kinds of steps")
+	}
 	a := made(t)
 	if !a.Up() || a.Life() != 0 {
 		t.Error("initially")

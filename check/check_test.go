@@ -73,6 +73,9 @@ func TestCells(t *testing.T) { // 30.1
 			t.Errorf("Cells(%q) = %d; want %d", x.s, n, x.n)
 		}
 	}
+	if check.Most != 4096 {
+		t.Error(check.Most)
+	}
 	if n := check.Cells(seq(wide(0, 45), wide(1, 45), wide(3, 45))); n != 46*46*46 {
 		t.Error(n)
 	}

@@ -227,7 +227,11 @@ func TestCheckOfConfigurations(t *testing.T) { // 37.1
 		change func(c *api.Config)
 		ok     bool
 	}{
-		{func(c *api.Config) { c.T.Links[0].Most = 0 }, false}, {func(c *api.Config) { c.T.Links = c.T.Links[:4]; c.Weights = [][]uint64{c.Weights[0][:4]} }, false}, {func(c *api.Config) { c.T.Hosts = nil }, true}, {func(c *api.Config) { c.Weights = nil }, false},
+		{func(c *api.Config) { c.T.Links[0].Most = 0 }, false}, {func(c *api.Config) { c.T.Links = c.T.Links[:4]; c.Weights = [][]uint64{c.Weights[0][:4]} }, false}, {func(c *api.Config) { c.T.Hosts = nil }, true}, {func(c *api.Config) {
+			c.T.Hosts = nil
+			c.T.Links = c.T.Links[:4]
+			c.Weights = [][]uint64{c.Weights[0][:4]}
+		}, false}, {func(c *api.Config) { c.Weights = c.Weights[:1] }, true}, {func(c *api.Config) { c.Weights = nil }, false},
 		{func(c *api.Config) { c.Weights = slices.Repeat(c.Weights[:1], 16) }, true}, {func(c *api.Config) { c.Weights = slices.Repeat(c.Weights[:1], 17) }, false}, {func(c *api.Config) { c.Weights[2] = c.Weights[2][:4] }, false}, {func(c *api.Config) { c.Weights[1] = weigh.Bits([]float64{1, 1, 1, 1, math.Inf(1)}) }, false},
 		{func(c *api.Config) { c.Weights[1] = weigh.Bits([]float64{1, 1, 1, 1, -1}) }, false}, {func(c *api.Config) { c.Weights[1] = weigh.Bits([]float64{1, 1, math.Inf(1), 1, 1}) }, true}, {func(c *api.Config) { c.Weights[1] = weigh.Bits([]float64{1, 1, math.NaN(), 1, 1}) }, false},
 		{func(c *api.Config) { c.Starts = c.Starts[:4] }, false}, {func(c *api.Config) { c.Starts = append(c.Starts, 0) }, false}, {func(c *api.Config) { c.Starts[0] = 1 << 20; c.Starts[1] = -1 << 20 }, true}, {func(c *api.Config) { c.Starts[0] = 1<<20 + 1 }, false}, {func(c *api.Config) { c.Starts[4] = -1<<20 - 1 }, false},
@@ -656,6 +660,10 @@ func closed(t *testing.T, out int) *desk {
 	t.Helper()
 	d := checking(t)
 	d.up = all &^ out
+	d.now = to + 2
+	if out&(2|4|8) == 0 { // All participants can be reached, but one of them is not done.
+		d.hear(nack(api.Check, 0, 1))
+	}
 	d.timer(to + 2)
 	for d.x.Phase() == ctl.Undoing {
 		for _, m := range slices.Clone(d.messages) {
@@ -715,7 +723,66 @@ func TestReleasing(t *testing.T) { // 37.2, 37.4, 37.5
 	}
 }
 
+func TestUndoingWaitsForEachAnswer(t *testing.T) { // 37.3, 37.4
+	d := checking(t)
+	d.hear(nack(api.Check, 0, 1))
+	d.undone(rec(journal.Sure, 0, 0))
+	d.hear(ack(api.Undo, 2, 1))
+	d.timer(d.now + life + 1)
+	d.sends(undo(1, 2))
+	d.timer(d.now + 14)
+	d.sends()
+	d.timer(d.now + 1)
+	d.sends(undo(1, 2)) // not the first round yet
+	// Without an answer, the rest begins when the switch cannot be reached.
+	d.up = all &^ 4
+	d.timer(d.now + 1)
+	d.timer(d.now + life)
+	d.sends()
+	d.timer(d.now + 1)
+	d.sends(undo(0, 3))
+	d.is(ctl.Undoing, rec(journal.Cancel, 0, 0))
+}
+
+func TestSweepOfTheFirstSwitch(t *testing.T) { // 37.4
+	d := closed(t, 1)
+	d.up = all
+	d.timer(d.now + 1)
+	d.sends(undo(-1, 0))
+}
+
 func TestSweepBeginsAgainAfterEachUpdate(t *testing.T) { // 37.4
+	c := ring()
+	c.Retry = 1000
+	x, _ := ctl.New(c)
+	d := &desk{t: t, x: x, now: begun}
+	for u := 1; u <= 2; u++ {
+		d.up = all
+		d.learn()
+		d.accept(1, api.OK)
+		d.up = all &^ 2
+		for d.x.Phase() != ctl.Idle {
+			d.timer(d.now + life + 1)
+			for _, m := range slices.Clone(d.messages) {
+				if m.Kind == api.Undo {
+					d.hear(api.Message{Kind: api.Ack, Sw: m.Sw, U: u, Rd: m.Rd, Of: api.Undo})
+				}
+			}
+			d.messages = nil
+		}
+		d.up = all
+		sweep := api.Message{Kind: api.Undo, Sw: 1, U: u, Rd: -1}
+		d.timer(d.now + 1) // soon after the last one, but since then the phase became Idle
+		d.sends(sweep)
+		d.timer(d.now + 999)
+		d.sends()
+		d.timer(d.now + 1)
+		d.sends(sweep)
+		d.hear(api.Message{Kind: api.Ack, Sw: 1, U: u, Rd: -1, Of: api.Undo})
+	}
+}
+
+func TestSweepBeginsAgainAfterStart(t *testing.T) { // 37.4
 	d := closed(t, 2)
 	d.up = all
 	d.timer(d.now + 1)
@@ -772,6 +839,11 @@ func TestEstimates(t *testing.T) { // 37.5
 		if d.x.Estimate(2) != want {
 			t.Error(m, d.x.Estimate(2))
 		}
+	}
+	d.hear(api.Message{Kind: api.TimeTell, Sw: 0, T1: 124, T2: 130})
+	d.hear(api.Message{Kind: api.TimeTell, Sw: 4, T1: 124, T2: 130})
+	if e := d.x.Estimate(0); !e.Known || e.S != span.Of(6, 6) || d.x.Estimate(4) != e {
+		t.Error(e, d.x.Estimate(4))
 	}
 	for _, sw := range []int{-1, 5, math.MaxInt, math.MinInt} {
 		if d.x.Estimate(sw) != (skew.Estimate{}) {

@@ -47,6 +47,12 @@ func TestWrong(t *testing.T) { // 22.1
 	}
 }
 
+func TestConstants(t *testing.T) { // 22
+	if diff.Most != 64 || diff.MaxAfters != 256 || diff.Wide != 1<<30 {
+		t.Error("constants")
+	}
+}
+
 func TestEarliest(t *testing.T) { // 22.2
 	for i, x := range []struct {
 		n    int

@@ -130,7 +130,7 @@ func TestNew(t *testing.T) { // 38.1
 func TestConfigurationIsCopied(t *testing.T) { // 38.1 with R4
 	c := chain()
 	l := newLab(t, c)
-	c.T.Links[0].Most, c.T.Hosts[0].At, c.Starts[0], c.Weights[0][0] = 999, 2, 77, 0
+	c.T.Links[0].Most, c.T.Links[0].PortA, c.T.Hosts[0].At, c.Starts[0], c.Weights[0][0] = 999, 4, 2, 77, 0
 	l.do(fabric.Inject, 0, 1, api.OK)
 	l.tells(injected(0, 0, 0, 1), came(0, 0, 7))
 	if w := l.x.Ways(); len(w) != 1 || w[0].Late != 5 || l.x.Clock(0) != 5 {

@@ -18,6 +18,9 @@ func edges(ends ...int) []graph.Edge {
 }
 
 func TestRight(t *testing.T) { // 20.1
+	if graph.Most != 16 {
+		t.Error(graph.Most)
+	}
 	for i, x := range []struct {
 		n  int
 		l  []graph.Edge

@@ -39,7 +39,7 @@ func TestStates(t *testing.T) { // 36.1
 	}{
 		{nil, journal.State{}}, {[]journal.Rec{begin}, journal.State{U: 1, Open: true, Target: 2, At: 30}}, {[]journal.Rec{begin, arm0, arm1}, journal.State{U: 1, Open: true, Target: 2, At: 30, Armed: 2}}, {[]journal.Rec{begin, arm0, sure}, journal.State{U: 1, Open: true, Target: 2, At: 30, Armed: 1, Sure: true}},
 		{[]journal.Rec{begin, arm0, sure, commit}, journal.State{U: 1, Now: 2}}, {[]journal.Rec{begin, cancel}, journal.State{U: 1, Open: true, Target: 2, At: 30, Cancelled: true}}, {[]journal.Rec{begin, arm0, sure, cancel}, journal.State{U: 1, Open: true, Target: 2, At: 30, Armed: 1, Sure: true, Cancelled: true}},
-		{[]journal.Rec{begin, cancel, rec(journal.Close, 1, 0, 0)}, journal.State{U: 1}}, {[]journal.Rec{begin, cancel, rec(journal.Close, 1, 5, 0)}, journal.State{U: 1, Out: 5}}, {[]journal.Rec{begin, cancel, rec(journal.Close, 1, 133, 0), rec(journal.Release, 1, 7, 0)}, journal.State{U: 1, Out: 5}},
+		{[]journal.Rec{begin, cancel, rec(journal.Close, 1, 0, 0)}, journal.State{U: 1}}, {[]journal.Rec{begin, cancel, rec(journal.Close, 1, 5, 0)}, journal.State{U: 1, Out: 5}}, {[]journal.Rec{begin, cancel, rec(journal.Close, 1, 255, 0)}, journal.State{U: 1, Out: 255}}, {[]journal.Rec{begin, cancel, rec(journal.Close, 1, 133, 0), rec(journal.Release, 1, 7, 0)}, journal.State{U: 1, Out: 5}},
 		{[]journal.Rec{begin, arm0, sure, commit, rec(journal.Begin, 2, 0, 0), cancel2(), rec(journal.Close, 2, 1, 0)}, journal.State{U: 2, Now: 2, Out: 1}}, {[]journal.Rec{begin, arm0, sure, commit, rec(journal.Begin, 2, 15, 1<<50)}, journal.State{U: 2, Now: 2, Open: true, Target: 15, At: 1 << 50}},
 	} {
 		if s := after(t, x.l...); s != x.want {
@@ -101,6 +101,14 @@ func TestRecordsThatAreNotAllowed(t *testing.T) { // 36.1
 		x.r.B, x.r.A = 0, 1
 		if s, e := journal.Next(x.s, x.r); (x.r.Kind == journal.Sure || x.r.Kind == journal.Cancel || x.r.Kind == journal.Commit) && (s != x.s || e != api.ErrForm) {
 			t.Errorf("Next(%v, %v) = %v, %d", x.s, x.r, s, e)
+		}
+	}
+}
+
+func TestConstants(t *testing.T) { // 36
+	for i, kind := range []int{journal.Begin, journal.Arm, journal.Sure, journal.Cancel, journal.Commit, journal.Close, journal.Release} {
+		if kind != i+1 {
+			t.Error(i, kind)
 		}
 	}
 }

@@ -80,6 +80,10 @@ func TestFindings(t *testing.T) { // 25.1
 			p.Rounds[1].At = math.MinInt
 			p.Rounds[2].At = math.MinInt
 		}, []judge.Finding{{judge.Close, 1, 0}, {judge.Close, 2, 0}}},
+		{func(p *plan.Plan) { p.Rounds[0].At = math.MinInt; p.Rounds[1].At = -1<<50 + 18 }, []judge.Finding{{judge.Close, 1, 0}}},
+		{func(p *plan.Plan) { p.Rounds[0].At = math.MinInt; p.Rounds[1].At = -1<<50 + 19 }, nil},
+		{func(p *plan.Plan) { p.Rounds[1].At = 1<<50 - 19; p.Rounds[2].At = math.MaxInt }, nil},
+		{func(p *plan.Plan) { p.Rounds[1].At = 1<<50 - 18; p.Rounds[2].At = math.MaxInt }, []judge.Finding{{judge.Close, 2, 0}}},
 		{func(p *plan.Plan) { p.Rounds[1].At = math.MaxInt; p.Rounds[2].At = 1 << 60 }, []judge.Finding{{judge.Close, 2, 0}}},
 		{func(p *plan.Plan) { p.Rounds[0], p.Rounds[2] = p.Rounds[2], p.Rounds[0] }, []judge.Finding{{judge.Close, 1, 0}, {judge.Close, 2, 0}, {judge.Loop, 0, 0}, {judge.Loop, 1, 0}, {judge.Loop, 2, 0}}},
 	} {

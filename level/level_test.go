@@ -116,7 +116,7 @@ func TestUnion(t *testing.T) { // 23.2
 			t.Errorf("%d: %v; want %v", i, got, y.want)
 		}
 	}
-	same := []level.Move{{Sw: 0, Host: 0, Port: 2, Round: 1}, {Sw: 5, Host: 0, Port: 1, Round: 1}, {Sw: -1, Host: 0, Port: 1, Round: 1}}
+	same := []level.Move{{Sw: 0, Host: 0, Port: 2, Round: 1}, {Sw: 3, Host: 0, Port: 1, Round: 1}, {Sw: 5, Host: 0, Port: 1, Round: 1}, {Sw: -1, Host: 0, Port: 1, Round: 1}}
 	if got := level.Union(x, old, same, 1, 0); !equal(got, [][]int{{2}, {1}, {7}}) {
 		t.Error(got)
 	}

@@ -52,6 +52,12 @@ func TestErrors(t *testing.T) { // 28.1
 	}
 }
 
+func TestConstants(t *testing.T) { // 28
+	if lex.Word != 1 || lex.Number != 2 || lex.Sign != 3 || lex.End != 4 || lex.Most != 4000 || lex.MaxTokens != 500 {
+		t.Error("constants")
+	}
+}
+
 func TestText(t *testing.T) { // 28.2
 	if s := lex.Text([]lex.Token{word("dst", 0), sign(":=", 3), number(30, 5), end(6), {Kind: 9, S: "x"}, {Kind: 0, N: 4}, sign("(", 0), number(0, 7)}); s != "dst := 30 ( 0" {
 		t.Errorf("%q", s)

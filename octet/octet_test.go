@@ -66,6 +66,10 @@ func TestReading(t *testing.T) { // 4.2
 	if r.Take(1) != "x" || r.End() != api.OK || !r.Ok() || r.End() != api.OK {
 		t.Error("End")
 	}
+	r = octet.Open("xy")
+	if r.Take(1) != "x" || r.End() != api.ErrForm {
+		t.Error("one byte is left")
+	}
 	if octet.Open("").End() != api.OK {
 		t.Error("End of nothing")
 	}

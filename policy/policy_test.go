@@ -103,6 +103,10 @@ func TestRightLimits(t *testing.T) { // 27.1
 	if policy.Wide(six) != 64 || !policy.Right(six) {
 		t.Error("a width of 64 is allowed")
 	}
+	eight, five := union(times(8, set(1, 1))...), union(times(5, set(1, 1))...)
+	if x := seq(union(eight, five), five); policy.Wide(x) != 65 || policy.Size(x) > 64 || policy.Right(x) {
+		t.Error("a width of 65 is not allowed")
+	}
 	more := seq(six.L[0], six.L[1], six.L[2], six.L[3], six.L[4], union(set(1, 1), set(1, 2), set(1, 3)))
 	if policy.Wide(more) != 96 || policy.Size(more) != 20 || policy.Right(more) {
 		t.Error("a width of 96 is not allowed")
@@ -120,6 +124,14 @@ func TestRightLimits(t *testing.T) { // 27.1
 	}
 	if x := size(filter(pred.Pred{Kind: pred.And, L: []pred.Pred{yes, yes, yes, yes, yes, yes}})); policy.Size(x) != 65 || policy.Right(x) {
 		t.Error("a size of 65 is not allowed", policy.Size(x))
+	}
+}
+
+func TestConstants(t *testing.T) { // 27
+	for i, kind := range []int{policy.Filter, policy.Set, policy.Seq, policy.Union, policy.If} {
+		if kind != i+1 {
+			t.Error(i, kind)
+		}
 	}
 }
 

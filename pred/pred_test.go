@@ -233,6 +233,25 @@ func TestPush(t *testing.T) { // 26.2
 	}
 }
 
+func TestWrongConditionsDoNotPanic(t *testing.T) { // P1
+	for _, p := range []pred.Pred{{}, {Kind: pred.Not}, not(pred.Pred{Kind: pred.Not}), not(not(pred.Pred{Kind: pred.Not})), {Kind: 9, L: []pred.Pred{{}}}, and(), or(), not(pred.Pred{Kind: 9}), is(99, -1)} {
+		pred.Push(p)
+		pred.Text(p)
+		pred.Values(p, 99)
+	}
+}
+
+func TestConstants(t *testing.T) { // 26
+	for i, kind := range []int{pred.True, pred.False, pred.Is, pred.Not, pred.And, pred.Or} {
+		if kind != i+1 {
+			t.Error(i, kind)
+		}
+	}
+	if pred.Many != 8 {
+		t.Error(pred.Many)
+	}
+}
+
 func TestValues(t *testing.T) { // 26.3
 	p := and(is(1, 5), not(is(1, 3)), or(is(1, 5), is(0, 7), not(not(is(1, 0)))), is(4, 2), is(5, 1))
 	for f, want := range [][]int{{7}, {0, 3, 5}, nil, nil, {2}, {1}, nil} {

@@ -129,11 +129,22 @@ func TestEval(t *testing.T) { // 1.2
 		{[]tick.Op{push(top + 1)}, 0, api.ErrOver}, {[]tick.Op{push(-top - 1), op(tick.Turn)}, 0, api.ErrOver},
 		{[]tick.Op{push(top), push(1), op(tick.Plus)}, 0, api.ErrOver}, {[]tick.Op{push(-top), push(1), op(tick.Minus)}, 0, api.ErrOver},
 		{[]tick.Op{push(top), push(2), op(tick.Times), op(0)}, 0, api.ErrOver}, {[]tick.Op{op(0), push(top + 1)}, 0, api.ErrArg},
-		{[]tick.Op{push(math.MinInt)}, 0, api.ErrOver}, {[]tick.Op{push(1), push(2), push(top + 1)}, 0, api.ErrOver},
+		{[]tick.Op{push(3), push(1), push(2), op(8)}, 0, api.ErrArg}, {[]tick.Op{push(3), push(1), push(2), op(0)}, 0, api.ErrArg}, {[]tick.Op{push(math.MinInt)}, 0, api.ErrOver}, {[]tick.Op{push(1), push(2), push(top + 1)}, 0, api.ErrOver},
 	} {
 		if n, e := tick.Eval(x.l); n != x.n || e != x.e {
 			t.Errorf("%d: Eval = %d, %d; want %d, %d", i, n, e, x.n, x.e)
 		}
+	}
+}
+
+func TestConstants(t *testing.T) { // 1.1, 1.2
+	for i, kind := range []int{tick.Push, tick.Plus, tick.Minus, tick.Times, tick.Least, tick.Most, tick.Turn} {
+		if kind != i+1 {
+			t.Error(i, kind)
+		}
+	}
+	if tick.Ratio != 4096 || tick.MaxOps != 64 {
+		t.Error(tick.Ratio, tick.MaxOps)
 	}
 }
 
