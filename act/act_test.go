@@ -163,6 +163,22 @@ func TestWrongListsDoNotPanic(t *testing.T) { // P1
 	}
 }
 
+func TestFoldOfListsThatAreNotValid(t *testing.T) { // 9.2
+	r := rand.New(rand.NewSource(67))
+	fields := []int{-1, 0, 1, 3, 4, 99, math.MinInt}
+	for range 3000 {
+		l := some(r)
+		for i := range l {
+			if l[i].Kind == api.Set {
+				l[i].F = fields[r.Intn(len(fields))]
+			}
+		}
+		if f := act.Fold(l); !slices.Equal(f, folded(l)) || !slices.Equal(act.Fold(f), f) {
+			t.Fatal(l, f, folded(l))
+		}
+	}
+}
+
 func TestFoldReturnsNewMemory(t *testing.T) { // 9.2 with R4
 	l := []api.Act{set(3, 4), out(1)}
 	act.Fold(l)[0].V = 99
